@@ -108,3 +108,103 @@ func TestTheSameArgumentsGiveTheSameAnswers(t *testing.T) {
 		}
 	}
 }
+
+func TestNothingIsWrittenIntoPrefixesAndNothingShared(t *testing.T) {
+	lists := [][]prefix{}
+	for _, l := range wrongPrefixes() {
+		lists = append(lists, l)
+	}
+	for _, l := range append(lists, rightPrefixes()...) {
+		spare := prefix{Name: "spare", Long: "spare"}
+		all := slices.Concat(l, []prefix{spare, spare, spare})
+		kept := slices.Clone(all)
+		part := all[:len(l):len(all)]
+		impl.PrefixesOk(part)
+		impl.Shortened(part, "<e:a>")
+		for _, g := range [][]triple{nil, awkwardTriples(), manyTriples(81)} {
+			checkApart(t, "TurtleText and ReadTurtle", func(g, _ []triple) []triple { return listOf(impl.ReadTurtle(impl.TurtleText(part, g))) }, g, nil)
+			checkApart(t, "TurtleText", func(g, _ []triple) []triple { return []triple{{S: impl.TurtleText(part, g)}} }, g, nil)
+		}
+		if !slices.Equal(all, kept) {
+			t.Errorf("%v: an argument is written into", kept)
+		}
+	}
+}
+
+func TestNothingIsWrittenIntoAGraphOfAStoreAndNothingShared(t *testing.T) {
+	graphs := [][]triple{nil, smallWorld(), mixedWorld(), mixedWorld()[:1], manyTriples(80), manyTriples(81), {smallWorld()[1], smallWorld()[0]}}
+	parts := map[string]func(s store) []triple{
+		"Spo": func(s store) []triple { return s.Spo },
+		"Pos": func(s store) []triple { return s.Pos },
+		"Osp": func(s store) []triple { return s.Osp },
+	}
+	for _, g := range graphs {
+		for name, part := range parts {
+			checkApart(t, "StoreOf: "+name, func(g, _ []triple) []triple {
+				s, ok := impl.StoreOf(g)
+				return listOf(part(s), ok)
+			}, g, nil)
+		}
+		checkListsApart(t, g)
+	}
+}
+
+// checkListsApart writes over each list of a store, and over the room behind it, and looks at the other two.
+func checkListsApart(t *testing.T, g []triple) {
+	t.Helper()
+	s, _ := impl.StoreOf(g)
+	want := plainStore(s.Spo)
+	scribble(s.Spo)
+	if !slices.Equal(s.Pos, want.Pos) || !slices.Equal(s.Osp, want.Osp) {
+		t.Error("Spo shares memory with another list")
+	}
+	scribble(s.Pos)
+	if !slices.Equal(s.Osp, want.Osp) {
+		t.Error("Pos and Osp share memory")
+	}
+}
+
+func TestNothingIsWrittenIntoAStoreAndNothingShared(t *testing.T) {
+	right := plainStore(mixedWorld())
+	stores := []store{{}, right, plainStore(manyTriples(80)), {Spo: right.Pos, Pos: right.Spo, Osp: right.Osp}, {Spo: right.Spo, Pos: right.Osp, Osp: right.Pos}, {Spo: right.Spo}}
+	for _, s := range stores {
+		for _, p := range []triple{{}, {P: "<p>"}, {S: "<a>", O: "<b>"}, {S: "none"}, mixedWorld()[3]} {
+			osp, allOsp := roomy(s.Osp)
+			kept := slices.Clone(allOsp)
+			checkApart(t, "Found", func(spo, pos []triple) []triple {
+				asked := store{Spo: spo, Pos: pos, Osp: osp}
+				impl.StoreOk(asked)
+				found := impl.Found(asked, p)
+				return found
+			}, s.Spo, s.Pos)
+			found := impl.Found(store{Spo: s.Spo, Pos: s.Pos, Osp: osp}, p)
+			scribble(found)
+			if !slices.Equal(allOsp, kept) {
+				t.Error("Found writes into Osp, or shares memory with it")
+			}
+		}
+	}
+}
+
+func TestTurtleAndStoresGiveTheSameAnswers(t *testing.T) {
+	l := []prefix{{Name: "e", Long: "e:"}, {Name: "x", Long: "e"}}
+	g := awkwardTriples()
+	text := impl.TurtleText(l, g)
+	s := plainStore(g)
+	for range 200 {
+		h, ok := impl.ReadTurtle(text)
+		if !ok || !slices.Equal(h, g) || impl.TurtleText(l, h) != text || impl.Shortened(l, "<e:a>") != "e:a" {
+			t.Fatal(h)
+		}
+		if again, ok := impl.StoreOf(h); !ok || !sameStore(again, s) || !slices.Equal(impl.Found(again, triple{}), g) {
+			t.Fatal(again)
+		}
+		// A reader that gave up has left nothing behind.
+		if _, ok := impl.ReadTurtle(text + "<a>"); ok {
+			t.Fatal("a text that ends too soon")
+		}
+		if _, ok := impl.ReadTurtle("e:a a e:a ."); ok {
+			t.Fatal("a name that an earlier text gave")
+		}
+	}
+}

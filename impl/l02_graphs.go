@@ -1,6 +1,7 @@
 package impl
 
 import (
+	"maps"
 	"slices"
 	"strings"
 )
@@ -25,16 +26,19 @@ func TripleText(t Triple) string {
 	if !TripleOk(t) {
 		return ""
 	}
-	return t.S + " " + t.P + " " + t.O + " ."
+	return pointed(t)
 }
+
+// pointed asks nothing of t: patterns are written like triples.
+func pointed(t Triple) string { return t.S + " " + t.P + " " + t.O + " ." }
 
 // ReadTriple takes S and P from the front and the point from the end: only O may have blanks in it.
 func ReadTriple(s string) (Triple, bool) {
-	body, pointed := strings.CutSuffix(s, " .")
+	body, ended := strings.CutSuffix(s, " .")
 	subject, rest, _ := strings.Cut(body, " ")
 	predicate, object, _ := strings.Cut(rest, " ")
 	t := Triple{S: subject, P: predicate, O: object}
-	if !pointed || !TripleOk(t) {
+	if !ended || !TripleOk(t) {
 		return Triple{}, false
 	}
 	return t, true
@@ -100,17 +104,17 @@ func tripleSet(lists ...[]Triple) map[Triple]bool {
 	return set
 }
 
-// graphOf tells a set in order, so that no answer shows the order of a map; the triples are right already.
+// graphOf takes triples that are right already: only their number is left to be asked.
 func graphOf(set map[Triple]bool) ([]Triple, bool) {
 	if len(set) > MaxTriples {
 		return nil, false
 	}
-	g := make([]Triple, 0, len(set))
-	for t := range set {
-		g = append(g, t)
-	}
-	slices.SortFunc(g, compareTriples)
-	return g, true
+	return triplesInOrder(set), true
+}
+
+// triplesInOrder sorts, so that no answer shows the order of a map.
+func triplesInOrder(set map[Triple]bool) []Triple {
+	return slices.SortedFunc(maps.Keys(set), compareTriples)
 }
 
 func compareTriples(a Triple, b Triple) int {

@@ -33,7 +33,7 @@ func someNets() []rete {
 }
 
 func TestNothingIsWrittenIntoANetAndNothingShared(t *testing.T) {
-	lists := [][]triple{nil, readPatterns("<a> <q> <new> . <b> <p> <b> . <a> <q> <new> . <c> <z> _:b ."), knot(), {triple{}}, append(knot()[:2], triple{}), manyTriples(81)}
+	lists := [][]triple{nil, readPatterns("<a> <q> <new> . <b> <p> <b> . <c> <z> _:b ."), readPatterns("<a> <q> <new> . <b> <p> <b> . <a> <q> <new> . <c> <z> _:b ."), knot(), {triple{}}, append(knot()[:2], triple{}), manyTriples(81)}
 	for _, n := range someNets() {
 		for _, l := range append(lists, n.Facts) {
 			given := []any{n, l}

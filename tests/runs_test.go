@@ -8,8 +8,16 @@ import (
 	"loop.example/g00420/impl"
 )
 
+// plainListOk is the document's sentence about a list of triples that is right.
+func plainListOk(l []triple) bool {
+	return len(l) <= 80 && slices.Equal(l, inOrder(l)) && !slices.ContainsFunc(l, func(x triple) bool { return !impl.TripleOk(x) })
+}
+
 // plainRun is the document's sentence about ReteRun; it gives the facts at the end.
 func plainRun(n rete, l []triple) ([]triple, bool) {
+	if !plainListOk(l) {
+		return nil, false
+	}
 	facts := n.Facts
 	for waiting := slices.Clone(l); len(waiting) > 0; waiting = waiting[1:] {
 		more := inOrder(append(slices.Clone(facts), waiting[0]))
@@ -20,6 +28,41 @@ func plainRun(n rete, l []triple) ([]triple, bool) {
 		facts = more
 	}
 	return facts, true
+}
+
+// risingParts cuts a list at each triple that the one in front of it is not ahead of.
+func risingParts(l []triple) [][]triple {
+	var parts [][]triple
+	start := 0
+	for i := range l {
+		if i+1 == len(l) || !impl.Ahead(l[i], l[i+1]) {
+			parts = append(parts, l[start:i+1])
+			start = i + 1
+		}
+	}
+	return parts
+}
+
+// runByParts tells a net a list in any order in several runs, and sees that one run refuses it when it is not in order.
+func runByParts(t *testing.T, n rete, l []triple) (rete, bool) {
+	t.Helper()
+	parts := risingParts(l)
+	if len(parts) > 1 {
+		got, ok := impl.ReteRun(n, l)
+		wantNoNet(t, "a list that is not in order", got, ok)
+	}
+	return runAll(n, parts)
+}
+
+func runAll(n rete, parts [][]triple) (rete, bool) {
+	for _, part := range parts {
+		more, ok := impl.ReteRun(n, part)
+		if !ok {
+			return more, false
+		}
+		n = more
+	}
+	return n, true
 }
 
 func orders(l []triple) [][]triple {
@@ -53,17 +96,33 @@ func TestANetComesToHaveTheClosureInWhateverOrder(t *testing.T) {
 		}
 		net := plainNet(rules, want)
 		for _, l := range orders(g) {
-			got, ok := impl.ReteRun(mustNew(t, rules), l)
+			got, ok := runByParts(t, mustNew(t, rules), l)
 			wantNet(t, "in another order", got, ok, net)
+			got, ok = runAll(mustNew(t, rules), slices.Collect(slices.Chunk(l, 1)))
+			wantNet(t, "one by one", got, ok, net)
 			for i := range len(l) + 1 {
-				half, ok := impl.ReteRun(mustNew(t, rules), l[:i])
-				if !ok {
-					t.Fatal(l[:i])
-				}
-				got, ok := impl.ReteRun(half, l[i:])
+				got, ok := runAll(mustNew(t, rules), [][]triple{inOrder(l[:i]), inOrder(l[i:])})
 				wantNet(t, "in two runs", got, ok, net)
 			}
 		}
+	}
+}
+
+// What comes is told in the order in which it comes, whatever order that is, and may come twice.
+func TestWhatComesNeedNotBeInOrder(t *testing.T) {
+	back := readRules("?x <c> ?y . => ?x <b> ?y .", "?x <b> ?y . => ?x <a> ?y .", "?x <a> ?y . => ?x <d> ?y .")
+	for _, c := range []struct {
+		what, l, want string
+		rules         []rule
+	}{
+		{"what comes is ahead of what is told", "<z> <c> <y> .", "<z> <a> <y> . <z> <b> <y> . <z> <c> <y> . <z> <d> <y> .", back},
+		{"what comes is between two that are told", "<z> <a> <y> . <z> <c> <y> .", "<z> <a> <y> . <z> <b> <y> . <z> <c> <y> . <z> <d> <y> .", back},
+		{"what comes first is behind what comes then", "<a> <p> <z> . <b> <p> <a> .", "<a> <p> <z> . <a> <q> <b> . <b> <p> <a> . <z> <q> <a> .", readRules("?x <p> ?y . => ?y <q> ?x .")},
+		{"one comes twice", "<a> <p> <b> . <a> <p> <c> .", "<a> <p> <b> . <a> <p> <c> . <z> <q> <z> .", readRules("?x <p> ?y . => <z> <q> <z> .")},
+		{"one that is told comes, too", "<a> <p> <b> . <b> <p> <a> .", "<a> <p> <b> . <b> <p> <a> .", readRules("?x <p> ?y . => ?y <p> ?x .")},
+	} {
+		got, ok := impl.ReteRun(mustNew(t, c.rules), readPatterns(c.l))
+		wantNet(t, c.what, got, ok, plainNet(c.rules, readPatterns(c.want)))
 	}
 }
 
@@ -95,25 +154,28 @@ func TestRunsOfManyNets(t *testing.T) {
 	whole, grown, refused := 0, 0, 0
 	for range 400 {
 		rules := rulesBy(dice, dice.Intn(6))
-		l := graphBy(dice, knot())
-		want, fits := impl.Closure(l, rules)
-		l = append(l, chosen(l, dice.Intn(1<<len(l)))...)
+		g := graphBy(dice, knot())
+		want, fits := impl.Closure(g, rules)
+		l := append(slices.Clone(g), chosen(g, dice.Intn(1<<len(g)))...)
 		dice.Shuffle(len(l), func(i, j int) { l[i], l[j] = l[j], l[i] })
-		got, ok := impl.ReteRun(mustNew(t, rules), l)
-		if ok != fits {
-			t.Fatalf("ReteRun(%v, %v) = %v, Closure %v", rules, l, ok, fits)
+		got, ok := impl.ReteRun(mustNew(t, rules), g)
+		again, ok2 := runByParts(t, mustNew(t, rules), l)
+		if ok != fits || ok2 != fits {
+			t.Fatalf("ReteRun(%v, %v) = %v, of %v %v, Closure %v", rules, g, ok, l, ok2, fits)
 		}
 		if !ok {
 			wantNoNet(t, "a run without room", got, ok)
+			wantNoNet(t, "runs without room", again, ok2)
 			refused++
 			continue
 		}
 		wantNet(t, "a run", got, ok, plainNet(rules, want))
+		wantNet(t, "runs", again, ok2, plainNet(rules, want))
 		if t.Failed() {
-			t.Fatalf("ReteRun(%v, %v)", rules, l)
+			t.Fatalf("ReteRun(%v, %v), and of %v", rules, g, l)
 		}
 		whole++
-		if len(want) > len(inOrder(l))+2 {
+		if len(want) > len(g)+2 {
 			grown++
 		}
 	}
@@ -136,16 +198,19 @@ func TestRunsOfNetsThatAreNotClosed(t *testing.T) {
 		wantNet(t, c.l, got, ok, plainNet(rules, readPatterns(c.want)))
 	}
 	dice := rand.New(rand.NewSource(47))
-	runs := 0
-	for range 150 {
+	runs, refused := 0, 0
+	for range 200 {
 		rules := rulesBy(dice, 1+dice.Intn(4))
 		n := plainNet(rules, chosen(knot(), dice.Intn(1<<11)&dice.Intn(1<<11)))
 		l := chosen(knot(), dice.Intn(1<<11)&dice.Intn(1<<11))
-		dice.Shuffle(len(l), func(i, j int) { l[i], l[j] = l[j], l[i] })
+		if dice.Intn(4) == 0 {
+			dice.Shuffle(len(l), func(i, j int) { l[i], l[j] = l[j], l[i] })
+		}
 		want, fits := plainRun(n, l)
 		got, ok := impl.ReteRun(n, l)
 		if !fits || !plainRoom(n.Facts, rules) {
-			wantNoNet(t, "no room", got, ok)
+			wantNoNet(t, "no room, or not in order", got, ok)
+			refused++
 		} else {
 			wantNet(t, "a run", got, ok, plainNet(rules, want))
 			runs++
@@ -154,8 +219,8 @@ func TestRunsOfNetsThatAreNotClosed(t *testing.T) {
 			t.Fatalf("ReteRun(%v, %v)", n, l)
 		}
 	}
-	if runs < 100 {
-		t.Errorf("%d runs", runs)
+	if runs < 100 || refused < 30 {
+		t.Errorf("%d runs, %d refused", runs, refused)
 	}
 }
 
@@ -163,7 +228,7 @@ func TestRunsAtTheEdges(t *testing.T) {
 	rules := readRules("?x <p> ?y . => ?y <q> ?x .")
 	one := readPatterns("<a> <p> <b> .")
 	both := plainNet(rules, readPatterns("<a> <p> <b> . <b> <q> <a> ."))
-	for _, l := range [][]triple{one, {one[0], one[0]}, slices.Repeat(one, 500), {one[0], both.Facts[1]}, {both.Facts[1], one[0], both.Facts[1]}} {
+	for _, l := range [][]triple{one, both.Facts} {
 		got, ok := impl.ReteRun(mustNew(t, rules), l)
 		wantNet(t, "one triple", got, ok, both)
 	}
@@ -174,11 +239,51 @@ func TestRunsAtTheEdges(t *testing.T) {
 		wantNet(t, "what is there", got, ok, n)
 	}
 	for _, x := range wrongTriples() {
-		for _, l := range [][]triple{{x}, {one[0], x}, {x, one[0]}, {one[0], one[0], x, one[0]}, append(manyTriples(80), x), {both.Facts[0], both.Facts[1], x}} {
+		for _, l := range [][]triple{{x}, {one[0], x}, {x, one[0]}, {one[0], one[0], x, one[0]}, append(manyTriples(80), x), {both.Facts[0], both.Facts[1], x}, inOrder(append(manyTriples(79), x))} {
 			for _, n := range []rete{{}, mustNew(t, rules), both} {
 				got, ok := impl.ReteRun(n, l)
 				wantNoNet(t, textOf(x), got, ok)
 			}
+		}
+	}
+}
+
+// A list that is not right is refused also where each of its triples could be added, or is there.
+func TestRunsOfListsThatAreNotRight(t *testing.T) {
+	rules := readRules("?x <p> ?y . => ?y <q> ?x .")
+	lists := wrongGraphs()
+	for _, s := range []string{
+		"<fa> <sub> <c> . <a> <type> _:b . <c> <sub> <q> .",
+		"<c> <sub> <q> . <a> <type> _:b .",
+		"<a> <type> _:b . <a> <type> _:b .",
+		"<a> <p> <b> . <a> <p> <a> .",
+		"<a> <q> <a> . <a> <p> <b> .",
+		"_:a <p> <a> . <a> <p> <b> .",
+		"<a> <p> <b> . <b> <q> <a> . <a> <p> <b> .",
+		"<a> <p> <b> . <b> <q> <a> . <b> <q> <a> .",
+		"<b> <q> <a> . <a> <p> <b> . <b> <q> <a> .",
+	} {
+		lists[s] = readPatterns(s)
+	}
+	turned := manyTriples(80)
+	turned[78], turned[79] = turned[79], turned[78]
+	lists["the last two changed"] = turned
+	lists["80, and the last again"] = append(manyTriples(80), manyTriples(80)[79])
+	lists["one 500 times"] = slices.Repeat(manyTriples(1), 500)
+	for why, l := range lists {
+		facts := []triple{}
+		for _, x := range l {
+			if impl.TripleOk(x) {
+				facts = append(facts, x)
+			}
+		}
+		facts = inOrder(facts)
+		for _, n := range []rete{{}, mustNew(t, rules), someNet(), plainNet(nil, facts[:min(len(facts), 80)]), plainNet(rules, facts[:len(facts)/2])} {
+			if !impl.ReteOk(n) || plainListOk(l) {
+				t.Fatal(why)
+			}
+			got, ok := impl.ReteRun(n, l)
+			wantNoNet(t, why, got, ok)
 		}
 	}
 }
@@ -207,7 +312,7 @@ func TestRunsOfEightyTriples(t *testing.T) {
 		slices.Reverse(turned)
 		want, _ := impl.Closure(inOrder(c.l), c.rules)
 		for _, l := range [][]triple{c.l, turned} {
-			got, ok := impl.ReteRun(mustNew(t, c.rules), l)
+			got, ok := runByParts(t, mustNew(t, c.rules), l)
 			if c.want < 0 {
 				wantNoNet(t, c.what, got, ok)
 			} else if wantNet(t, c.what, got, ok, plainNet(c.rules, want)); len(got.Facts) != c.want {

@@ -70,51 +70,41 @@ func With(g []Triple, t Triple) ([]Triple, bool) {
 	if !GraphOk(g) || !TripleOk(t) {
 		return nil, false
 	}
-	set := tripleSet(g)
-	set[t] = true
-	return graphOf(set)
+	triples := setOf(g)
+	triples[t] = true
+	return graphOf(triples)
 }
 
 func Without(g []Triple, t Triple) ([]Triple, bool) {
 	if !GraphOk(g) || !TripleOk(t) {
 		return nil, false
 	}
-	set := tripleSet(g)
-	if !set[t] {
+	triples := setOf(g)
+	if !triples[t] {
 		return nil, false
 	}
-	delete(set, t)
-	return graphOf(set)
+	delete(triples, t)
+	return graphOf(triples)
 }
 
 func Union(a []Triple, b []Triple) ([]Triple, bool) {
 	if !GraphOk(a) || !GraphOk(b) {
 		return nil, false
 	}
-	return graphOf(tripleSet(a, b))
-}
-
-func tripleSet(lists ...[]Triple) map[Triple]bool {
-	set := map[Triple]bool{}
-	for _, l := range lists {
-		for _, t := range l {
-			set[t] = true
-		}
-	}
-	return set
+	return graphOf(setOf(a, b))
 }
 
 // graphOf takes triples that are right already: only their number is left to be asked.
-func graphOf(set map[Triple]bool) ([]Triple, bool) {
-	if len(set) > MaxTriples {
+func graphOf(triples map[Triple]bool) ([]Triple, bool) {
+	if len(triples) > MaxTriples {
 		return nil, false
 	}
-	return triplesInOrder(set), true
+	return triplesInOrder(triples), true
 }
 
 // triplesInOrder sorts, so that no answer shows the order of a map.
-func triplesInOrder(set map[Triple]bool) []Triple {
-	return slices.SortedFunc(maps.Keys(set), compareTriples)
+func triplesInOrder(triples map[Triple]bool) []Triple {
+	return slices.SortedFunc(maps.Keys(triples), compareTriples)
 }
 
 func compareTriples(a Triple, b Triple) int {

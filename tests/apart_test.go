@@ -46,22 +46,27 @@ func sharing(answer, other []span) int {
 }
 
 // roomyCopy copies v; each list in the copy has spare room behind it that is filled.
-func roomyCopy(v reflect.Value) reflect.Value {
+func roomyCopy(v reflect.Value) reflect.Value { return copyWith(v, 3) }
+
+// tightCopy copies v; no list in the copy has spare room.
+func tightCopy(v reflect.Value) reflect.Value { return copyWith(v, 0) }
+
+func copyWith(v reflect.Value, room int) reflect.Value {
 	c := reflect.New(v.Type()).Elem()
 	c.Set(v)
 	switch v.Kind() {
 	case reflect.Interface:
-		c.Set(roomyCopy(v.Elem()))
+		c.Set(copyWith(v.Elem(), room))
 	case reflect.Struct:
 		for i := range v.NumField() {
-			c.Field(i).Set(roomyCopy(v.Field(i)))
+			c.Field(i).Set(copyWith(v.Field(i), room))
 		}
 	case reflect.Slice:
-		c.Set(reflect.MakeSlice(v.Type(), v.Len()+3, v.Len()+3))
+		c.Set(reflect.MakeSlice(v.Type(), v.Len()+room, v.Len()+room))
 		for i := range v.Len() {
-			c.Index(i).Set(roomyCopy(v.Index(i)))
+			c.Index(i).Set(copyWith(v.Index(i), room))
 		}
-		for i := range 3 {
+		for i := range room {
 			fillSpare(c.Index(v.Len() + i))
 		}
 		c.Set(c.Slice(0, v.Len()))
